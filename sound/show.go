@@ -66,21 +66,19 @@ func Show(c api.Core) string {
 	return out.String()
 }
 
-// head is what stands ahead of c's Kids.
+// head is what stands ahead of c's Kids. A Text that is there has its blank even if it is written as nothing, being too long for an atom.
 func head(c *api.Core) string {
 	out := word(c.Kind)
-	put := func(text string) {
-		if text != "" {
-			out += " " + text
-		}
-	}
+	put := func(text string) { out += " " + text }
 	if c.Text != "" {
 		put(term.Text(api.Term{Kind: api.Atom, Text: c.Text}))
 	}
 	if c.Num != 0 {
 		put(strconv.Itoa(c.Num))
 	}
-	put(term.Text(c.Term))
+	if text := term.Text(c.Term); text != "" {
+		put(text)
+	}
 	return out
 }
 

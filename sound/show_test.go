@@ -46,24 +46,42 @@ func TestShow(t *testing.T) {
 	}
 }
 
-// P9.3: a Text that is longer than an atom's is nothing: no blank stands for it.
+// P9.3: a Text that is longer than an atom's is written as nothing, but behind its blank, as it is there.
 func TestShowOfLongTexts(t *testing.T) {
-	for _, n := range []int{39, 40, 41, 42, 100, 1 << 20} {
-		for _, letter := range []string{"a", "\xff", " "} {
+	for _, n := range []int{1, 39, 40, 41, 42, 100, 1 << 20} {
+		for _, letter := range []string{"a", "\x00", "\xff", " "} {
 			text := strings.Repeat(letter, n)
-			shown := map[string]string{"a": " " + text, "\xff": " '" + strings.Repeat(`\xff`, n) + "'", " ": " '" + text + "'"}[letter]
+			shown := map[string]string{"a": " " + text, "\x00": " '" + strings.Repeat(`\x00`, n) + "'", "\xff": " '" + strings.Repeat(`\xff`, n) + "'", " ": " '" + text + "'"}[letter]
 			if n > 40 {
-				shown = ""
+				shown = " "
 			}
 			for want, c := range map[string]api.Core{
 				"bif" + shown:                           bif(text),
 				"fail" + shown + " (fail" + shown + ")": said(api.CoreFail, text, said(api.CoreFail, text)),
 				"var" + shown + " -3 a (any)":           {Kind: api.CoreVar, Text: text, Num: -3, Term: atom("a"), Kids: []api.Core{wildcard}},
+				"const" + shown + " ''":                 {Kind: api.CoreConst, Text: text, Term: atom("")},
+				"const" + shown + " 7":                  {Kind: api.CoreConst, Text: text, Num: 7, Term: atom(strings.Repeat("a", 41))},
+				"?" + shown + " (var)":                  {Text: text, Term: api.Term{Text: text}, Kids: []api.Core{x(0)}},
 			} {
 				if got := sound.Show(c); got != want {
-					t.Errorf("%d bytes: %.200s", n, got)
+					t.Errorf("%d bytes: %.200q", n, got)
 				}
 			}
+		}
+	}
+}
+
+// P9.3: the blanks of long Texts, written out.
+func TestShowOfLongTextsWrittenOut(t *testing.T) {
+	long := strings.Repeat("a", 41)
+	for want, c := range map[string]api.Core{
+		"fail ":                  said(api.CoreFail, strings.Repeat("\x00", 41)),
+		"fail  (fail ) (fail)":   said(api.CoreFail, long, said(api.CoreFail, long), said(api.CoreFail, "")),
+		"bif  3 (var)":           {Kind: api.CoreBif, Text: long, Num: 3, Kids: []api.Core{x(0)}},
+		"tuple  {} (bif  (any))": {Kind: api.CoreTuple, Text: long, Term: api.Term{Kind: api.Tuple}, Kids: []api.Core{bif(long, wildcard)}},
+	} {
+		if got := sound.Show(c); got != want {
+			t.Errorf("%q, not %q", got, want)
 		}
 	}
 }

@@ -287,7 +287,10 @@ func wordOf(kind api.CoreKind) string {
 
 func showByWords(c api.Core) string {
 	out := []string{wordOf(c.Kind)}
-	if c.Text != "" && len(c.Text) <= 40 {
+	switch n := len(c.Text); {
+	case n > 40:
+		out = append(out, "")
+	case n > 0:
 		out = append(out, term.Text(atom(c.Text)))
 	}
 	if c.Num != 0 {
